@@ -104,28 +104,38 @@ var badGrams = map[string]impl.Gram{
 	"only the last is bad":   gramOf("A", rule("A", "a"), rule("A", "b"), rule("A", "x")),
 }
 
-// someGrams returns many valid grammars, always the same ones.
-func someGrams() []impl.Gram {
-	var grams []impl.Gram
-	state := uint32(1)
-	pick := func(n int) int {
+// picker returns a function that returns numbers below its argument, always the same ones in a row.
+func picker(state uint32) func(n int) int {
+	return func(n int) int {
 		state = state*1664525 + 1013904223
 		return int(state>>16) % n
 	}
-	symbols := bigs + smalls
-	for len(grams) < 500 {
-		g := gramOf(string(bigs[pick(5)]))
-		for range pick(impl.RuleMost + 1) {
-			var right []byte
-			for range pick(impl.RightMost + 1) {
-				right = append(right, symbols[pick(len(symbols))])
-			}
-			r := rule(string(bigs[pick(5)]), string(right))
-			if !slices.Contains(g.Rules, r) {
-				g.Rules = append(g.Rules, r)
-			}
+}
+
+// pickRules returns at most count different productions.
+func pickRules(pick func(n int) int, count int, lefts, symbols string) []impl.Rule {
+	var rules []impl.Rule
+	for range count {
+		var right []byte
+		for range pick(impl.RightMost + 1) {
+			right = append(right, symbols[pick(len(symbols))])
 		}
-		grams = append(grams, g)
+		r := rule(string(lefts[pick(len(lefts))]), string(right))
+		if !slices.Contains(rules, r) {
+			rules = append(rules, r)
+		}
+	}
+	return rules
+}
+
+// someGrams returns many valid grammars, always the same ones.
+func someGrams() []impl.Gram {
+	var grams []impl.Gram
+	pick := picker(1)
+	for len(grams) < 500 {
+		start := string(bigs[pick(5)])
+		rules := pickRules(pick, pick(impl.RuleMost+1), bigs, bigs+smalls)
+		grams = append(grams, gramOf(start, rules...))
 	}
 	for _, f := range fixedGrams {
 		grams = append(grams, f.gram)
