@@ -793,7 +793,7 @@ func TestWithoutConflictsNoStringHasTwoTrees(t *testing.T) {
 }
 
 func TestWithoutConflictsDifferentTreesHaveDifferentYields(t *testing.T) {
-	// These trees are enumerated without the program, and reach longer strings than chapter 4 does.
+	// These trees are enumerated without chapter 4, and their yields may be longer than its strings.
 	grams := 0
 	conflictFree(t, func(g impl.Gram, _ impl.Table) {
 		known := map[string]impl.Tree{}
