@@ -908,6 +908,20 @@ func cells(tree *impl.Tree) []*impl.Tree {
 	return all
 }
 
+// checkShareNothing expects several trees to have memory of their own, spare capacity included.
+func checkShareNothing(t *testing.T, trees ...impl.Tree) {
+	t.Helper()
+	seen := map[*impl.Tree]bool{}
+	for i := range trees {
+		for _, cell := range cells(&trees[i]) {
+			if seen[cell] {
+				t.Errorf("memory of tree %d of %v is in use elsewhere", i, trees)
+			}
+			seen[cell] = true
+		}
+	}
+}
+
 func TestListedTreesAreNewMemory(t *testing.T) {
 	g := read(t, "A\nA>AA\nA>a\nA>B\nB>\nB>C\nC>a\nC>\n")
 	for _, text := range []string{"", "aa", "aaaa"} {
@@ -915,15 +929,7 @@ func TestListedTreesAreNewMemory(t *testing.T) {
 		if len(trees) < 4 {
 			t.Errorf("%q has %d trees", text, len(trees))
 		}
-		seen := map[*impl.Tree]bool{}
-		for i := range trees {
-			for _, cell := range cells(&trees[i]) {
-				if seen[cell] {
-					t.Errorf("%q: memory of tree %d is in use elsewhere", text, i)
-				}
-				seen[cell] = true
-			}
-		}
+		checkShareNothing(t, trees...)
 	}
 }
 

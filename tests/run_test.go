@@ -1319,15 +1319,7 @@ func checkTreesAreNewMemory(t *testing.T, g impl.Gram, text string, steps []impl
 		run, _, _ := impl.RunOf(g, text)
 		trees = append(trees, made, run)
 	}
-	seen := map[*impl.Tree]bool{}
-	for i := range trees {
-		for _, cell := range cells(&trees[i]) {
-			if seen[cell] {
-				t.Errorf("%q: memory of a tree of %q is in use elsewhere", g, text)
-			}
-			seen[cell] = true
-		}
-	}
+	checkShareNothing(t, trees...)
 	overwrite(&trees[0])
 	for _, tree := range trees[1:] {
 		if yieldOf(tree) != text || !isTreeOf(g, tree) {
