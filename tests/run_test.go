@@ -475,6 +475,12 @@ func checkError(t *testing.T, g impl.Gram, text string, steps []impl.Step, count
 	if reads != count || slices.Contains(steps, endStep()) {
 		t.Errorf("%q: %d terminals of %q are read by %s", g, count, text, impl.StepsText(steps))
 	}
+	checkErrorAt(t, g, text, count)
+}
+
+// checkErrorAt compares the position of an error with what is derived.
+func checkErrorAt(t *testing.T, g impl.Gram, text string, count int) {
+	t.Helper()
 	if wantIs(g, text) {
 		t.Errorf("%q: %q is derived, but not parsed", g, text)
 	}
@@ -542,6 +548,13 @@ var runGrams = []string{
 	"A\nA>Bb\nB>Ca\nB>\nC>Cc\nC>Dd\nD>\n",
 }
 
+// manyTexts returns texts over the terminals of a grammar and, for errors, short ones with terminals that do not occur.
+func manyTexts(g impl.Gram) []string {
+	signs := impl.GramSmalls(g)
+	longest := map[int]int{0: 6, 1: 7, 2: 7, 3: 6, 4: 5}[len(signs)]
+	return append(textsOver(signs, longest), textsOver(smalls, 2)...)
+}
+
 func TestParsedIsWhatIsDerived(t *testing.T) {
 	fine := 0
 	for _, gram := range runGrams {
@@ -549,10 +562,7 @@ func TestParsedIsWhatIsDerived(t *testing.T) {
 		if m.code != 0 || !isTrim(m.g) {
 			t.Fatalf("%q does not belong here", gram)
 		}
-		// Errors are also made with a terminal that does not occur.
-		signs := impl.GramSmalls(m.g)
-		longest := map[int]int{0: 6, 1: 7, 2: 7, 3: 6, 4: 5}[len(signs)]
-		for _, text := range append(textsOver(signs, longest), textsOver(smalls, 2)...) {
+		for _, text := range manyTexts(m.g) {
 			switch checkRun(t, m, text) {
 			case 0:
 				fine++
@@ -576,13 +586,12 @@ func TestNextIsWhatDerivedStringsGoOnWith(t *testing.T) {
 	}
 }
 
-// changedGrams returns grammars that are those of runGrams but for one production, without conflicts. In many of them
-// productions are in vain, and some are without derived strings.
-func changedGrams(t *testing.T) []machine {
+// changedOnce returns the grammars of texts, each with one production changed, left out or added, many times and always the same way.
+func changedOnce(t *testing.T, texts []string, seed uint32) []impl.Gram {
 	t.Helper()
-	var machines []machine
-	pick := picker(77)
-	for _, gram := range runGrams {
+	var grams []impl.Gram
+	pick := picker(seed)
+	for _, gram := range texts {
 		for range 60 {
 			g := read(t, gram)
 			at := pick(len(g.Rules))
@@ -598,12 +607,23 @@ func changedGrams(t *testing.T) []machine {
 			default:
 				g.Rules = append(g.Rules, pickRules(pick, 1, bigs, bigs+smalls)...)
 			}
-			if !impl.GramOk(g) || slices.ContainsFunc(machines, func(m machine) bool { return impl.GramSame(g, m.g) }) {
-				continue
+			known := func(other impl.Gram) bool { return impl.GramSame(g, other) }
+			if impl.GramOk(g) && !slices.ContainsFunc(grams, known) {
+				grams = append(grams, g)
 			}
-			if m := machineOf(g); m.code == 0 {
-				machines = append(machines, m)
-			}
+		}
+	}
+	return grams
+}
+
+// changedGrams returns grammars that are those of runGrams but for one production, without conflicts. In many of them
+// productions are in vain, and some are without derived strings.
+func changedGrams(t *testing.T) []machine {
+	t.Helper()
+	var machines []machine
+	for _, g := range changedOnce(t, runGrams, 77) {
+		if m := machineOf(g); m.code == 0 {
+			machines = append(machines, m)
 		}
 	}
 	return machines
@@ -647,32 +667,45 @@ func TestRunsOfManyGrams(t *testing.T) {
 	}
 }
 
+// longTexts returns up to 13 texts of 7 or 8 terminals that are yields of the first trees of Start of at most a depth.
+func longTexts(g impl.Gram, depth, limit int) []string {
+	var texts []string
+	for _, tree := range treesOf(g, g.Start, depth, limit) {
+		if text := yieldOf(tree); len(text) >= 7 && len(text) <= 8 && len(texts) < 13 {
+			texts = append(texts, text)
+		}
+	}
+	return texts
+}
+
+// textsNear returns text with one terminal left out, changed or added.
+func textsNear(text string) []string {
+	var texts []string
+	for i := range len(text) {
+		texts = append(texts, text[:i]+text[i+1:])
+		for _, b := range smalls {
+			texts = append(texts, text[:i]+string(b)+text[i+1:], text[:i]+string(b)+text[i:])
+		}
+	}
+	return texts
+}
+
 func TestLongTextsAreParsed(t *testing.T) {
-	// Each of the longest strings that are derived, and the same with one terminal changed, left out or added.
 	longest := 0
 	for _, gram := range runGrams {
 		m := machineOf(read(t, gram))
-		count := 0
-		for _, tree := range treesOf(m.g, m.g.Start, 9, 300) {
-			text := yieldOf(tree)
-			if len(text) < 7 || len(text) > 8 || count > 12 {
-				continue
-			}
-			count++
+		for _, text := range longTexts(m.g, 9, 300) {
 			if len(text) == 8 {
 				longest++
 			}
 			if checkRun(t, m, text) != 0 {
 				t.Errorf("%q: %q is not parsed", gram, text)
 			}
-			checkNext(t, m, text)
-			for i := range len(text) {
-				checkRun(t, m, text[:i]+text[i+1:])
+			for _, near := range textsNear(text) {
+				checkRun(t, m, near)
+			}
+			for i := range len(text) + 1 {
 				checkNext(t, m, text[:i])
-				for _, b := range smalls {
-					checkRun(t, m, text[:i]+string(b)+text[i+1:])
-					checkRun(t, m, text[:i]+string(b)+text[i:])
-				}
 			}
 		}
 	}
