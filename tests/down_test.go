@@ -501,6 +501,10 @@ func checkDown(t *testing.T, f forecast, text string) int {
 	case 1:
 		checkErrorAt(t, g, text, count)
 	case 4:
+		// Without a conflict, at most five nonterminals are begun between two terminals, each once.
+		if count != 8 {
+			t.Errorf("%q: %q is too deep after %d terminals", g, text, count)
+		}
 		if whole, derived := derive(g, text)[part(g.Start, 0, len(text))]; derived && bigDepth(whole) <= 40 {
 			t.Errorf("%q: %q has the tree %v, which is not too deep", g, text, whole)
 		}
